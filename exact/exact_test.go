@@ -143,3 +143,25 @@ func TestSign(t *testing.T) {
 		t.Errorf("Sign(-0) = %d, want 0", got)
 	}
 }
+
+func checkLeastAndGreatest[T exact.Real](t *testing.T, l ...T) {
+	t.Helper()
+	least, greatest := exact.Least(l[0], l[1:]...), exact.Greatest(l[0], l[1:]...)
+	if least != slices.Min(l) || greatest != slices.Max(l) {
+		t.Errorf("of %v the least is %v, the greatest %v", l, least, greatest)
+	}
+}
+
+func TestLeastAndGreatest(t *testing.T) {
+	type count int
+	checkLeastAndGreatest(t, 4)
+	checkLeastAndGreatest(t, -1, 1)
+	checkLeastAndGreatest(t, 1, -1)
+	checkLeastAndGreatest(t, 3, -9, 7, 0)
+	checkLeastAndGreatest(t, math.MaxInt, math.MinInt, 0)
+	checkLeastAndGreatest(t, count(2), 5, 1, 2)
+	checkLeastAndGreatest(t, 0.5)
+	checkLeastAndGreatest(t, 0.5, -0.25, 3)
+	checkLeastAndGreatest(t, 5e-324, 0, -5e-324)
+	checkLeastAndGreatest(t, 1, math.Nextafter(1, 2), math.Nextafter(1, 0))
+}

@@ -2,7 +2,6 @@ package plumbline_test
 
 import (
 	"math"
-	"math/big"
 	"math/rand"
 	"testing"
 
@@ -10,64 +9,67 @@ import (
 	"plumbline/plumbline"
 )
 
-// question: a call that asks about three points.
+// question: a call that asks about some points.
 type question struct {
 	name string
-	ask  func(a, b, c api.Point) (int, api.Errno)
-	want func(a, b, c api.Point) int
+	size int // how many points
+	ask  func(l ...api.Point) (int, api.Errno)
+	want func(l ...api.Point) int
+}
+
+func orient() question {
+	ask := func(l ...api.Point) (int, api.Errno) { return plumbline.Orient(l[0], l[1], l[2]) }
+	return question{"P3: Orient", 3, ask, orientByRats}
+}
+
+func nearer() question {
+	ask := func(l ...api.Point) (int, api.Errno) { return plumbline.Nearer(l[0], l[1], l[2]) }
+	return question{"P4: Nearer", 3, ask, nearerByRats}
+}
+
+func inCircle() question {
+	ask := func(l ...api.Point) (int, api.Errno) { return plumbline.InCircle(l[0], l[1], l[2], l[3]) }
+	return question{"P5: InCircle", 4, ask, inCircleByRats}
+}
+
+func meet() question {
+	ask := func(l ...api.Point) (int, api.Errno) { return plumbline.Meet(l[0], l[1], l[2], l[3]) }
+	return question{"P6: Meet", 4, ask, meetByRats}
+}
+
+// inside asks about a polygon of so many corners, and the last point behind them.
+func inside(corners int) question {
+	ask := func(l ...api.Point) (int, api.Errno) { return plumbline.Inside(l[:len(l)-1], l[len(l)-1]) }
+	return question{"P7: Inside", corners + 1, ask, insideByRats}
 }
 
 func questions() []question {
-	return []question{
-		{"Orient", plumbline.Orient, orientByRats},
-		{"Nearer", plumbline.Nearer, nearerByRats},
-	}
+	return []question{orient(), nearer(), inCircle(), meet(), inside(0), inside(1), inside(2), inside(5)}
 }
 
 func pt(x, y float64) api.Point {
 	return api.Point{X: math.Float64bits(x), Y: math.Float64bits(y)}
 }
 
+// scaled makes points of whole numbers, times 2 to the scale.
+func scaled(scale int) func(x, y int64) api.Point {
+	return func(x, y int64) api.Point {
+		return pt(math.Ldexp(float64(x), scale), math.Ldexp(float64(y), scale))
+	}
+}
+
 func high() float64    { return math.Ldexp(1, 99) }
 func low() float64     { return math.Ldexp(1, -100) }
 func highest() float64 { return math.Nextafter(math.Ldexp(1, 100), 0) }
+func minus0() float64  { return math.Copysign(0, -1) }
 
-// places: where the six coordinates of three points lie.
-func places(l *[3]api.Point) [6]*uint64 {
-	return [6]*uint64{&l[0].X, &l[0].Y, &l[1].X, &l[1].Y, &l[2].X, &l[2].Y}
-}
-
-func rat(bits uint64) *big.Rat {
-	return new(big.Rat).SetFloat64(math.Float64frombits(bits))
-}
-
-func minus(p, q uint64) *big.Rat { return new(big.Rat).Sub(rat(p), rat(q)) }
-
-func times(p, q *big.Rat) *big.Rat { return new(big.Rat).Mul(p, q) }
-
-// mayBeByRats: what a coordinate may be, by the document's words.
-func mayBeByRats(bits uint64) bool {
-	x := rat(bits)
-	if x == nil {
-		return false
+// places: where the coordinates of points lie.
+func places(l []api.Point) []*uint64 {
+	var out []*uint64
+	for i := range l {
+		out = append(out, &l[i].X, &l[i].Y)
 	}
-	bound := new(big.Rat).SetFloat64(math.Ldexp(1, 100))
-	return new(big.Rat).Abs(x).Cmp(bound) < 0 && times(x, bound).IsInt()
-}
-
-func orientByRats(a, b, c api.Point) int {
-	left := times(minus(b.X, a.X), minus(c.Y, a.Y))
-	right := times(minus(b.Y, a.Y), minus(c.X, a.X))
-	return left.Cmp(right)
-}
-
-func distanceByRats(p, q api.Point) *big.Rat {
-	x, y := minus(q.X, p.X), minus(q.Y, p.Y)
-	return new(big.Rat).Add(times(x, x), times(y, y))
-}
-
-func nearerByRats(a, b, c api.Point) int {
-	return distanceByRats(a, c).Cmp(distanceByRats(a, b))
+	return out
 }
 
 // drawCoordinate: one that may be: small and whole, of one binary place, or with many of them anywhere in bounds.
@@ -88,19 +90,32 @@ func drawCoordinate(r *rand.Rand) float64 {
 
 func drawPoint(r *rand.Rand) api.Point { return pt(drawCoordinate(r), drawCoordinate(r)) }
 
-// drawPoints: three that may be, with coordinates in common more often than chance would have it.
-func drawPoints(r *rand.Rand) [3]api.Point {
-	l := [3]api.Point{drawPoint(r), drawPoint(r), drawPoint(r)}
-	at := places(&l)
-	for range r.Intn(4) {
-		*at[r.Intn(6)] = *at[r.Intn(6)]
+// drawPoints: some that may be, with coordinates in common more often than chance would have it.
+func drawPoints(r *rand.Rand, size int) []api.Point {
+	l := make([]api.Point, size)
+	for i := range l {
+		l[i] = drawPoint(r)
+	}
+	at := places(l)
+	for range r.Intn(size + 1) {
+		*at[r.Intn(len(at))] = *at[r.Intn(len(at))]
+	}
+	return l
+}
+
+// drawGrid: points with whole coordinates from 0 to most, at a scale that is the same for all.
+func drawGrid(r *rand.Rand, size int, most int64) []api.Point {
+	at := scaled(r.Intn(140) - 100)
+	l := make([]api.Point, size)
+	for i := range l {
+		l[i] = at(r.Int63n(most+1), r.Int63n(most+1))
 	}
 	return l
 }
 
 // nudge moves one coordinate by the least that its bits have room for, where what comes out may be.
-func nudge(r *rand.Rand, l [3]api.Point) [3]api.Point {
-	at := places(&l)[r.Intn(6)]
+func nudge(r *rand.Rand, l []api.Point) {
+	at := places(l)[r.Intn(2*len(l))]
 	to := *at + 1
 	if r.Intn(2) == 0 {
 		to = *at - 1
@@ -108,22 +123,40 @@ func nudge(r *rand.Rand, l [3]api.Point) [3]api.Point {
 	if mayBeByRats(to) {
 		*at = to
 	}
-	return l
 }
 
-func checkAnswer(t *testing.T, q question, l [3]api.Point, want int) {
+func checkAnswer(t *testing.T, q question, want int, l ...api.Point) {
 	t.Helper()
-	if n, e := q.ask(l[0], l[1], l[2]); n != want || e != api.OK {
-		t.Errorf("%s(%x, %x, %x) = %d, %d, want %d", q.name, l[0], l[1], l[2], n, e, want)
+	if n, e := q.ask(l...); n != want || e != api.OK {
+		t.Errorf("%s%x = %d, %d, want %d", q.name, l, n, e, want)
 	}
 }
 
-// checkNudged asks about points whose answer is 0, then about them with one coordinate a hair further; it tells whether that answer is another.
-func checkNudged(t *testing.T, r *rand.Rand, q question, l [3]api.Point) bool {
+func checkWrong(t *testing.T, q question, want api.Errno, l ...api.Point) {
 	t.Helper()
-	checkAnswer(t, q, l, 0)
-	l = nudge(r, l)
-	want := q.want(l[0], l[1], l[2])
-	checkAnswer(t, q, l, want)
-	return want != 0
+	if n, e := q.ask(l...); n != 0 || e != want {
+		t.Errorf("P1: %s%x = %d, %d, want 0, %d", q.name, l, n, e, want)
+	}
+}
+
+// checkNudged asks about points whose answer is known, then about them with one coordinate a hair further; it tells whether that answer is another.
+func checkNudged(t *testing.T, r *rand.Rand, q question, known int, l ...api.Point) bool {
+	t.Helper()
+	checkAnswer(t, q, known, l...)
+	nudge(r, l)
+	want := q.want(l...)
+	checkAnswer(t, q, want, l...)
+	return want != known
+}
+
+// tally counts what was drawn, so that a test does not pass because it drew too little of a kind.
+type tally map[int]int
+
+func (c tally) check(t *testing.T, least int, answers ...int) {
+	t.Helper()
+	for _, n := range answers {
+		if c[n] < least {
+			t.Errorf("only %d draws have the answer %d", c[n], n)
+		}
+	}
 }

@@ -38,37 +38,38 @@ func rightBits() []uint64 {
 	return out
 }
 
-func ordinary() [3]api.Point { return [3]api.Point{pt(1, 2), pt(3, 5), pt(8, 13)} }
-
-func checkWrong(t *testing.T, q question, l [3]api.Point) {
-	t.Helper()
-	if n, e := q.ask(l[0], l[1], l[2]); n != 0 || e != api.ErrNumber {
-		t.Errorf("P1: %s(%x, %x, %x) = %d, %d, want 0, ErrNumber", q.name, l[0], l[1], l[2], n, e)
-	}
+// ordinary: points that none could take offence at.
+func ordinary(size int) []api.Point {
+	return []api.Point{pt(1, 2), pt(3, 5), pt(8, 13), pt(0, 1), pt(-4, 7), pt(2, 2)}[:size]
 }
 
 func TestP1WrongNumberInEveryPlace(t *testing.T) {
 	for _, q := range questions() {
 		for _, bits := range wrongBits() {
-			all := ordinary()
-			for i := range 6 {
-				one := ordinary()
-				*places(&one)[i] = bits
-				checkWrong(t, q, one)
-				*places(&all)[i] = bits
-				checkWrong(t, q, all)
+			all := ordinary(q.size)
+			for i := range 2 * q.size {
+				one := ordinary(q.size)
+				*places(one)[i] = bits
+				checkWrong(t, q, api.ErrNumber, one...)
+				*places(all)[i] = bits
+				checkWrong(t, q, api.ErrNumber, all...)
 			}
 		}
 	}
 }
 
+// TestP1WrongNumberWhereTheAnswerIsPlain: a wrong number is looked for even where the other points, or its other coordinate, would settle the answer.
 func TestP1WrongNumberWhereTheAnswerIsPlain(t *testing.T) {
 	for _, q := range questions() {
 		for _, bits := range wrongBits() {
-			p := api.Point{X: bits, Y: bits}
-			checkWrong(t, q, [3]api.Point{p, p, p})
-			checkWrong(t, q, [3]api.Point{pt(0, 0), pt(0, 0), {X: bits}})
-			checkWrong(t, q, [3]api.Point{pt(0, 0), {Y: bits}, pt(0, 0)})
+			all := make([]api.Point, q.size)
+			for i := range 2 * q.size {
+				one := make([]api.Point, q.size)
+				*places(one)[i] = bits
+				checkWrong(t, q, api.ErrNumber, one...)
+				*places(all)[i] = bits
+			}
+			checkWrong(t, q, api.ErrNumber, all...)
 		}
 	}
 }
@@ -76,10 +77,10 @@ func TestP1WrongNumberWhereTheAnswerIsPlain(t *testing.T) {
 func TestP1RightNumberInEveryPlace(t *testing.T) {
 	for _, q := range questions() {
 		for _, bits := range rightBits() {
-			for i := range 6 {
-				l := ordinary()
-				*places(&l)[i] = bits
-				checkAnswer(t, q, l, q.want(l[0], l[1], l[2]))
+			for i := range 2 * q.size {
+				l := ordinary(q.size)
+				*places(l)[i] = bits
+				checkAnswer(t, q, q.want(l...), l...)
 			}
 		}
 	}
@@ -101,27 +102,26 @@ func drawBits(r *rand.Rand) uint64 {
 
 func TestP1AllBits(t *testing.T) {
 	r := rand.New(rand.NewSource(4))
-	right := 0
-	for range 20000 {
-		l := ordinary()
-		mayBe := true
-		for i, at := range places(&l) {
-			if i == 0 || r.Intn(3) == 0 {
-				*at = drawBits(r)
-				mayBe = mayBe && mayBeByRats(*at)
+	for _, q := range questions() {
+		seen := tally{}
+		for range 5000 {
+			l := ordinary(q.size)
+			mayBe := true
+			for i, at := range places(l) {
+				if i == 0 || r.Intn(3) == 0 {
+					*at = drawBits(r)
+					mayBe = mayBe && mayBeByRats(*at)
+				}
 			}
-		}
-		for _, q := range questions() {
 			if mayBe {
-				checkAnswer(t, q, l, q.want(l[0], l[1], l[2]))
-				right++
+				seen[int(api.OK)]++
+				checkAnswer(t, q, q.want(l...), l...)
 			} else {
-				checkWrong(t, q, l)
+				seen[int(api.ErrNumber)]++
+				checkWrong(t, q, api.ErrNumber, l...)
 			}
 		}
-	}
-	if right < 1000 || right > 39000 {
-		t.Errorf("%d of the 40000 draws may be: too lopsided to test much", right)
+		seen.check(t, 200, int(api.OK), int(api.ErrNumber))
 	}
 }
 
@@ -129,18 +129,29 @@ func TestP1NoCallPanicsAtAnyList(t *testing.T) {
 	r := rand.New(rand.NewSource(5))
 	for _, length := range []int{0, 1, 2, 3, 99, 100, 101, 1000} {
 		l := make([]api.Point, length)
-		for i := range l {
-			l[i] = api.Point{X: drawBits(r), Y: drawBits(r)}
+		for _, at := range places(l) {
+			*at = drawBits(r)
 		}
-		p := [4]api.Point{}
-		for i := range p {
-			p[i] = api.Point{X: drawBits(r), Y: drawBits(r)}
-		}
-		plumbline.Inside(l, p[0])
+		plumbline.Inside(l, api.Point{X: drawBits(r), Y: drawBits(r)})
 		plumbline.Hull(l)
-		plumbline.InCircle(p[0], p[1], p[2], p[3])
-		plumbline.Meet(p[0], p[1], p[2], p[3])
 	}
 	plumbline.Inside(nil, api.Point{})
 	plumbline.Hull(nil)
+}
+
+// TestP1ManyComesAheadOfNumber: P7 names ErrMany, so ErrNumber stands behind it.
+func TestP1ManyComesAheadOfNumber(t *testing.T) {
+	for _, bits := range wrongBits() {
+		for _, corners := range []int{api.MaxPoints - 1, api.MaxPoints, api.MaxPoints + 1, 2 * api.MaxPoints} {
+			want := api.ErrNumber
+			if corners > api.MaxPoints {
+				want = api.ErrMany
+			}
+			for _, i := range []int{0, 1, corners, 2*corners - 1, 2 * corners, 2*corners + 1} {
+				l := make([]api.Point, corners+1)
+				*places(l)[i] = bits
+				checkWrong(t, inside(corners), want, l...)
+			}
+		}
+	}
 }

@@ -13,65 +13,98 @@ import (
 // TestP2CallsDoNotTouchEachOther: the same questions, forwards and backwards, with wrong ones between, by many at a time.
 func TestP2CallsDoNotTouchEachOther(t *testing.T) {
 	r := rand.New(rand.NewSource(6))
-	l := make([][3]api.Point, 300)
-	for i := range l {
-		l[i] = drawPoints(r)
-	}
-	var all sync.WaitGroup
-	for k := range 8 {
-		all.Go(func() {
-			for i := range l {
-				if k%2 == 1 {
-					i = len(l) - 1 - i
+	for _, q := range questions() {
+		l := make([][]api.Point, 100)
+		want := make([]int, len(l))
+		for i := range l {
+			l[i] = drawPoints(r, q.size)
+			want[i] = q.want(l[i]...)
+		}
+		var all sync.WaitGroup
+		for k := range 8 {
+			wrong := slices.Repeat([]api.Point{{X: wrongBits()[k]}}, q.size)
+			all.Go(func() {
+				for i := range l {
+					if k%2 == 1 {
+						i = len(l) - 1 - i
+					}
+					checkAnswer(t, q, want[i], l[i]...)
+					checkWrong(t, q, api.ErrNumber, wrong...)
 				}
-				for _, q := range questions() {
-					checkAnswer(t, q, l[i], q.want(l[i][0], l[i][1], l[i][2]))
-					q.ask(api.Point{X: wrongBits()[k]}, l[i][1], l[i][2])
-				}
-			}
-		})
+			})
+		}
+		all.Wait()
 	}
-	all.Wait()
 }
 
 // TestP2NoughtHasOneFace: 0 and -0 are the same number, so they have the same answer, in each place.
 func TestP2NoughtHasOneFace(t *testing.T) {
 	const minus = 1 << 63
 	r := rand.New(rand.NewSource(7))
-	for range 500 {
-		l := drawPoints(r)
-		var zeros []int
-		for i := range 6 {
-			if r.Intn(2) == 0 {
-				*places(&l)[i] = 0
-				zeros = append(zeros, i)
+	for _, q := range questions() {
+		for range 500 {
+			l := drawPoints(r, q.size)
+			var zeros []*uint64
+			for _, at := range places(l) {
+				if r.Intn(2) == 0 {
+					*at = 0
+					zeros = append(zeros, at)
+				}
 			}
-		}
-		for _, q := range questions() {
-			want := q.want(l[0], l[1], l[2])
-			checkAnswer(t, q, l, want)
-			changed := l
-			for _, i := range zeros {
-				*places(&changed)[i] = minus
-				checkAnswer(t, q, changed, want)
+			want := q.want(l...)
+			checkAnswer(t, q, want, l...)
+			for _, at := range zeros {
+				*at = minus
+				checkAnswer(t, q, want, l...)
 			}
 		}
 	}
 }
 
-// TestP2ListsAreLeftAlone: neither a list that is handed in nor its spare room is written into.
+// TestP2ListsAreLeftAlone: neither a list that is handed in nor its spare room is written into, whether the call answers or not.
 func TestP2ListsAreLeftAlone(t *testing.T) {
 	r := rand.New(rand.NewSource(8))
 	for _, length := range []int{0, 1, 5, 100, 101} {
-		room := make([]api.Point, length+7)
-		for i := range room {
-			room[i] = drawPoint(r)
+		for _, bits := range append(rightBits(), wrongBits()...) {
+			room := drawPoints(r, length+7)
+			*places(room)[r.Intn(2*length+1)] = bits
+			kept := slices.Clone(room)
+			plumbline.Inside(room[:length], drawPoint(r))
+			plumbline.Hull(room[:length])
+			if !slices.Equal(room, kept) {
+				t.Errorf("P2: a list of %d points was written into", length)
+			}
 		}
-		kept := slices.Clone(room)
-		plumbline.Inside(room[:length], drawPoint(r))
-		plumbline.Hull(room[:length])
-		if !slices.Equal(room, kept) {
-			t.Errorf("P2: a list of %d points was written into", length)
+	}
+}
+
+// TestP2ListsAreNotKept: a list that changes between two calls has the answers of what it holds.
+func TestP2ListsAreNotKept(t *testing.T) {
+	r := rand.New(rand.NewSource(13))
+	l := drawGrid(r, 7, 4)
+	for range 2000 {
+		l[r.Intn(7)] = l[r.Intn(7)]
+		copy(l[r.Intn(7):], drawGrid(r, 1, 4))
+		checkAnswer(t, inside(6), insideByRats(l...), l...)
+	}
+}
+
+// TestP2RoomDoesNotMatter: the same points, however much spare room there is behind them.
+func TestP2RoomDoesNotMatter(t *testing.T) {
+	r := rand.New(rand.NewSource(14))
+	for range 500 {
+		l := drawGrid(r, 8, 3)
+		corners, p := r.Intn(7), l[7]
+		want := insideByRats(append(slices.Clone(l[:corners]), p)...)
+		for _, same := range [][]api.Point{l[:corners], l[:corners:corners], append([]api.Point(nil), l[:corners]...)} {
+			if n, e := plumbline.Inside(same, p); n != want || e != api.OK {
+				t.Errorf("P2: Inside(%x, %x) = %d, %d, want %d", same, p, n, e, want)
+			}
+		}
+	}
+	for _, none := range [][]api.Point{nil, {}} {
+		if n, e := plumbline.Inside(none, pt(0, 0)); n != -1 || e != api.OK {
+			t.Errorf("P2: Inside of none = %d, %d, want -1", n, e)
 		}
 	}
 }

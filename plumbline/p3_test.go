@@ -6,16 +6,14 @@ import (
 	"testing"
 
 	"plumbline/api"
-	"plumbline/plumbline"
 )
 
 // checkOrient asks in all orders: a turn keeps its sign when the points go round, and changes it when two change places.
 func checkOrient(t *testing.T, a, b, c api.Point, want int) {
 	t.Helper()
-	q := question{name: "P3: Orient", ask: plumbline.Orient}
 	for range 3 {
-		checkAnswer(t, q, [3]api.Point{a, b, c}, want)
-		checkAnswer(t, q, [3]api.Point{b, a, c}, -want)
+		checkAnswer(t, orient(), want, a, b, c)
+		checkAnswer(t, orient(), -want, b, a, c)
 		a, b, c = b, c, a
 	}
 }
@@ -38,9 +36,8 @@ func TestP3Ordinary(t *testing.T) {
 
 func TestP3Edges(t *testing.T) {
 	h, l, top := high(), low(), highest()
-	minus0 := math.Copysign(0, -1)
-	checkOrient(t, pt(0, minus0), pt(minus0, 0), pt(1, 1), 0)
-	checkOrient(t, pt(minus0, minus0), pt(l, 0), pt(0, l), 1)
+	checkOrient(t, pt(0, minus0()), pt(minus0(), 0), pt(1, 1), 0)
+	checkOrient(t, pt(minus0(), minus0()), pt(l, 0), pt(0, l), 1)
 	checkOrient(t, pt(-h, -h), pt(h, h), pt(l, 0), -1)
 	checkOrient(t, pt(-h, -h), pt(h, h), pt(0, l), 1)
 	checkOrient(t, pt(-h, -h), pt(h, h), pt(l, l), 0)
@@ -57,17 +54,16 @@ func TestP3Edges(t *testing.T) {
 // TestP3HairOffALine: points on a line through whole numbers, then one coordinate of them a hair further.
 func TestP3HairOffALine(t *testing.T) {
 	r := rand.New(rand.NewSource(9))
-	q := question{"P3: Orient", plumbline.Orient, orientByRats}
 	offLine := 0
 	for range 3000 {
 		x, y, dx, dy := r.Int63n(1<<40), r.Int63n(1<<40), r.Int63n(1<<30), r.Int63n(1<<30)
-		scale := r.Intn(150) - 100
+		at := scaled(r.Intn(150) - 100)
 		var l [3]api.Point
 		for i := range l {
 			k := r.Int63n(1<<12) - 1<<11
-			l[i] = pt(math.Ldexp(float64(x+k*dx), scale), math.Ldexp(float64(y+k*dy), scale))
+			l[i] = at(x+k*dx, y+k*dy)
 		}
-		if checkNudged(t, r, q, l) {
+		if checkNudged(t, r, orient(), 0, l[:]...) {
 			offLine++
 		}
 	}
@@ -79,7 +75,7 @@ func TestP3HairOffALine(t *testing.T) {
 func TestP3Drawn(t *testing.T) {
 	r := rand.New(rand.NewSource(10))
 	for range 10000 {
-		l := drawPoints(r)
-		checkOrient(t, l[0], l[1], l[2], orientByRats(l[0], l[1], l[2]))
+		l := drawPoints(r, 3)
+		checkOrient(t, l[0], l[1], l[2], orientByRats(l...))
 	}
 }

@@ -6,15 +6,13 @@ import (
 	"testing"
 
 	"plumbline/api"
-	"plumbline/plumbline"
 )
 
 // checkNearer asks both ways round.
 func checkNearer(t *testing.T, a, b, c api.Point, want int) {
 	t.Helper()
-	q := question{name: "P4: Nearer", ask: plumbline.Nearer}
-	checkAnswer(t, q, [3]api.Point{a, b, c}, want)
-	checkAnswer(t, q, [3]api.Point{a, c, b}, -want)
+	checkAnswer(t, nearer(), want, a, b, c)
+	checkAnswer(t, nearer(), -want, a, c, b)
 }
 
 func TestP4Ordinary(t *testing.T) {
@@ -29,9 +27,8 @@ func TestP4Ordinary(t *testing.T) {
 
 func TestP4Edges(t *testing.T) {
 	h, l, top := high(), low(), highest()
-	minus0 := math.Copysign(0, -1)
-	checkNearer(t, pt(0, minus0), pt(minus0, 0), pt(0, 0), 0)
-	checkNearer(t, pt(0, 0), pt(minus0, 0), pt(0, l), 1)
+	checkNearer(t, pt(0, minus0()), pt(minus0(), 0), pt(0, 0), 0)
+	checkNearer(t, pt(0, 0), pt(minus0(), 0), pt(0, l), 1)
 	checkNearer(t, pt(0, 0), pt(h, 0), pt(h, l), 1)
 	checkNearer(t, pt(0, 0), pt(h, l), pt(-l, h), 0)
 	checkNearer(t, pt(-h, -h), pt(h, h), pt(h, math.Nextafter(h, 0)), -1)
@@ -45,20 +42,27 @@ func TestP4Edges(t *testing.T) {
 	checkNearer(t, pt(0.2, 0), pt(0.1, 0), pt(0.3, 0), -1) // 0.3 is a hair below three tenths, the two others are above theirs
 }
 
+// drawCircle: points just as far from the first one, which stands for their centre.
+func drawCircle(r *rand.Rand, round int) []api.Point {
+	x, y, dx, dy := r.Int63n(1<<50), r.Int63n(1<<50), r.Int63n(1<<50), r.Int63n(1<<50)
+	at := scaled(r.Intn(149) - 100)
+	l := []api.Point{at(x, y)}
+	for range round {
+		a, b := dx, dy
+		if r.Intn(2) == 0 {
+			a, b = dy, dx
+		}
+		l = append(l, at(x+a*(2*r.Int63n(2)-1), y+b*(2*r.Int63n(2)-1)))
+	}
+	return l
+}
+
 // TestP4JustAsFar: points just as far away, then one coordinate of them a hair further.
 func TestP4JustAsFar(t *testing.T) {
 	r := rand.New(rand.NewSource(11))
-	q := question{"P4: Nearer", plumbline.Nearer, nearerByRats}
 	notAlike := 0
 	for range 3000 {
-		x, y, dx, dy := r.Int63n(1<<50), r.Int63n(1<<50), r.Int63n(1<<50), r.Int63n(1<<50)
-		scale := r.Intn(149) - 100
-		at := func(x, y int64) api.Point {
-			return pt(math.Ldexp(float64(x), scale), math.Ldexp(float64(y), scale))
-		}
-		round := []api.Point{at(x+dx, y+dy), at(x-dx, y+dy), at(x+dy, y-dx), at(x-dy, y-dx)}
-		l := [3]api.Point{at(x, y), round[r.Intn(4)], round[r.Intn(4)]}
-		if checkNudged(t, r, q, l) {
+		if checkNudged(t, r, nearer(), 0, drawCircle(r, 2)...) {
 			notAlike++
 		}
 	}
@@ -70,7 +74,7 @@ func TestP4JustAsFar(t *testing.T) {
 func TestP4Drawn(t *testing.T) {
 	r := rand.New(rand.NewSource(12))
 	for range 10000 {
-		l := drawPoints(r)
-		checkNearer(t, l[0], l[1], l[2], nearerByRats(l[0], l[1], l[2]))
+		l := drawPoints(r, 3)
+		checkNearer(t, l[0], l[1], l[2], nearerByRats(l...))
 	}
 }

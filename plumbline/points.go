@@ -37,14 +37,26 @@ func mayBe(x float64) bool {
 	return units == math.Trunc(units)
 }
 
-// turn of three points: see DOC.md, 'Words'.
-func turn(a, b, c spot) exact.Number {
-	left := exact.Product(exact.Sum(b.x, -a.x), exact.Sum(c.y, -a.y))
-	right := exact.Product(exact.Sum(b.y, -a.y), exact.Sum(c.x, -a.x))
-	return exact.Total(left, right.Negative())
+// way: how far it is from one spot to another.
+type way struct {
+	x, y exact.Number
 }
 
-// distance2 is the square of the distance of two points: the distance itself has no exact number.
-func distance2(p, q spot) exact.Number {
-	return exact.Total(exact.Square(exact.Sum(q.x, -p.x)), exact.Square(exact.Sum(q.y, -p.y)))
+func wayFrom(p, q spot) way {
+	return way{exact.Sum(q.x, -p.x), exact.Sum(q.y, -p.y)}
+}
+
+// length2 is the square of a way's length: the length itself has no exact number.
+func length2(w way) exact.Number {
+	return exact.Total(exact.Square(w.x), exact.Square(w.y))
+}
+
+// cross is above 0, if w goes to the left of v.
+func cross(v, w way) exact.Number {
+	return exact.Total(exact.Product(v.x, w.y), exact.Product(v.y, w.x).Negative())
+}
+
+// turn is the sign of the turn of three points: see DOC.md, 'Words'.
+func turn(a, b, c spot) int {
+	return cross(wayFrom(a, b), wayFrom(a, c)).Sign()
 }
