@@ -43,8 +43,34 @@ func inside(corners int) question {
 	return question{"P7: Inside", corners + 1, ask, insideByRats}
 }
 
+// hull asks about so many points; the list that comes out is told as one number.
+func hull(size int) question {
+	ask := func(l ...api.Point) (int, api.Errno) {
+		corners, e := plumbline.Hull(l)
+		if e != api.OK && corners != nil {
+			return -1, e // no list has this number
+		}
+		return asOne(corners...), e
+	}
+	want := func(l ...api.Point) int { return asOne(hullByRats(l)...) }
+	return question{"P8: Hull", size, ask, want}
+}
+
+// asOne: a number that no other list of up to nine small numbers has; 0 for none.
+func asOne(list ...int) int {
+	one := 0
+	for _, n := range list {
+		one = 101*one + n + 1
+	}
+	return one
+}
+
 func questions() []question {
-	return []question{orient(), nearer(), inCircle(), meet(), inside(0), inside(1), inside(2), inside(5)}
+	return []question{
+		orient(), nearer(), inCircle(), meet(),
+		inside(0), inside(1), inside(2), inside(5),
+		hull(1), hull(2), hull(3), hull(6),
+	}
 }
 
 func pt(x, y float64) api.Point {

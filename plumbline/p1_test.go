@@ -139,19 +139,27 @@ func TestP1NoCallPanicsAtAnyList(t *testing.T) {
 	plumbline.Hull(nil)
 }
 
-// TestP1ManyComesAheadOfNumber: P7 names ErrMany, so ErrNumber stands behind it.
+// checkManyOrNumber: of so many points, with the bits of a wrong number in one of the places.
+func checkManyOrNumber(t *testing.T, q question, many bool, bits uint64, at ...int) {
+	t.Helper()
+	want := api.ErrNumber
+	if many {
+		want = api.ErrMany
+	}
+	for _, i := range at {
+		l := make([]api.Point, q.size)
+		*places(l)[i] = bits
+		checkWrong(t, q, want, l...)
+	}
+}
+
+// TestP1ManyComesAheadOfNumber: P7 and P8 name ErrMany, so ErrNumber stands behind it.
 func TestP1ManyComesAheadOfNumber(t *testing.T) {
 	for _, bits := range wrongBits() {
-		for _, corners := range []int{api.MaxPoints - 1, api.MaxPoints, api.MaxPoints + 1, 2 * api.MaxPoints} {
-			want := api.ErrNumber
-			if corners > api.MaxPoints {
-				want = api.ErrMany
-			}
-			for _, i := range []int{0, 1, corners, 2*corners - 1, 2 * corners, 2*corners + 1} {
-				l := make([]api.Point, corners+1)
-				*places(l)[i] = bits
-				checkWrong(t, inside(corners), want, l...)
-			}
+		for _, length := range []int{api.MaxPoints - 1, api.MaxPoints, api.MaxPoints + 1, 2 * api.MaxPoints} {
+			many := length > api.MaxPoints
+			checkManyOrNumber(t, inside(length), many, bits, 0, 1, length, 2*length-1, 2*length, 2*length+1)
+			checkManyOrNumber(t, hull(length), many, bits, 0, 1, length, 2*length-2, 2*length-1)
 		}
 	}
 }

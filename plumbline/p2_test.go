@@ -86,6 +86,7 @@ func TestP2ListsAreNotKept(t *testing.T) {
 		l[r.Intn(7)] = l[r.Intn(7)]
 		copy(l[r.Intn(7):], drawGrid(r, 1, 4))
 		checkAnswer(t, inside(6), insideByRats(l...), l...)
+		checkAnswer(t, hull(7), hull(7).want(l...), l...)
 	}
 }
 
@@ -100,11 +101,32 @@ func TestP2RoomDoesNotMatter(t *testing.T) {
 			if n, e := plumbline.Inside(same, p); n != want || e != api.OK {
 				t.Errorf("P2: Inside(%x, %x) = %d, %d, want %d", same, p, n, e, want)
 			}
+			checkHull(t, same, hullByRats(same)...)
 		}
 	}
 	for _, none := range [][]api.Point{nil, {}} {
 		if n, e := plumbline.Inside(none, pt(0, 0)); n != -1 || e != api.OK {
 			t.Errorf("P2: Inside of none = %d, %d, want -1", n, e)
+		}
+		checkHull(t, none)
+	}
+}
+
+// TestP2AnswersAreTheCallers: writing into a list that came out, and into its spare room, changes no other list, older or newer.
+func TestP2AnswersAreTheCallers(t *testing.T) {
+	r := rand.New(rand.NewSource(21))
+	for range 500 {
+		l := drawGrid(r, r.Intn(12), 4)
+		kept, want := slices.Clone(l), hullByRats(l)
+		older, _ := plumbline.Hull(l)
+		written, _ := plumbline.Hull(l)
+		room := written[:cap(written)]
+		for i := range room {
+			room[i] = 77
+		}
+		checkHull(t, l, want...)
+		if !slices.Equal(older, want) || !slices.Equal(l, kept) {
+			t.Errorf("P2: Hull(%x): another list was changed by writing into the answer", kept)
 		}
 	}
 }

@@ -65,4 +65,13 @@ func Inside(l []api.Point, p api.Point) (int, api.Errno) {
 }
 
 // Hull tells the corners of all points (P8).
-func Hull(l []api.Point) ([]int, api.Errno) { return nil, api.OK }
+func Hull(l []api.Point) ([]int, api.Errno) {
+	if len(l) > api.MaxPoints {
+		return nil, api.ErrMany
+	}
+	all, err := spots(l...)
+	if err != api.OK {
+		return nil, err
+	}
+	return hull(all), api.OK
+}

@@ -3,11 +3,12 @@ package plumbline_test
 import (
 	"math"
 	"math/big"
+	"slices"
 
 	"plumbline/api"
 )
 
-// What the calls are held against: the document's words, by fractions of great whole numbers. Meet and Inside go other ways than the program does: they reckon where lines cut each other.
+// What the calls are held against: the document's words, by fractions of great whole numbers. Meet and Inside go other ways than the program does: they reckon where lines cut each other. So does Hull: it asks each point for a line through it.
 
 func rat(bits uint64) *big.Rat {
 	return new(big.Rat).SetFloat64(math.Float64frombits(bits))
@@ -121,4 +122,80 @@ func insideByRats(l ...api.Point) int {
 		}
 	}
 	return answer
+}
+
+func samePoint(p, q api.Point) bool {
+	return rat(p.X).Cmp(rat(q.X)) == 0 && rat(p.Y).Cmp(rat(q.Y)) == 0
+}
+
+// firstOf: the lowest number of a point of l.
+func firstOf(l []api.Point, p api.Point) int {
+	return slices.IndexFunc(l, func(q api.Point) bool { return samePoint(p, q) })
+}
+
+// mostToTheRight tells whether all points of l but p lie, as seen from p, where q does or less than half a turn to the left of it.
+func mostToTheRight(l []api.Point, p, q api.Point) bool {
+	toQ := wayByRats(p, q)
+	for _, s := range l {
+		if samePoint(s, p) {
+			continue
+		}
+		to := wayByRats(p, s)
+		side := crossByRats(toQ, to).Sign()
+		if side < 0 || side == 0 && dotByRats(toQ, to).Sign() <= 0 {
+			return false
+		}
+	}
+	return true
+}
+
+// isCorner: a line through p with all others on one side, and none on it, is there just if they lie within less than half a turn, as seen from p.
+func isCorner(l []api.Point, p api.Point) bool {
+	alone := true
+	for _, q := range l {
+		if samePoint(p, q) {
+			continue
+		}
+		alone = false
+		if mostToTheRight(l, p, q) {
+			return true
+		}
+	}
+	return alone
+}
+
+// leftOf tells whether p has the lesser X, or the same X and the lesser Y.
+func leftOf(p, q api.Point) bool {
+	if x := rat(p.X).Cmp(rat(q.X)); x != 0 {
+		return x < 0
+	}
+	return rat(p.Y).Cmp(rat(q.Y)) < 0
+}
+
+// hullByRats goes from the first corner on to the one that has all others on its left.
+func hullByRats(l []api.Point) []int {
+	var corners []int
+	for i, p := range l {
+		if firstOf(l, p) == i && isCorner(l, p) {
+			corners = append(corners, i)
+		}
+	}
+	if len(corners) == 0 {
+		return nil
+	}
+	first := corners[0]
+	for _, i := range corners {
+		if leftOf(l[i], l[first]) {
+			first = i
+		}
+	}
+	out := []int{first}
+	for len(out) < len(corners) {
+		from := l[out[len(out)-1]]
+		next := slices.IndexFunc(corners, func(i int) bool {
+			return !samePoint(from, l[i]) && mostToTheRight(l, from, l[i])
+		})
+		out = append(out, corners[next])
+	}
+	return out
 }
